@@ -233,7 +233,7 @@ func first(t []tree.Node, ino int) (tree.Node, bool) {
 
 // paths is made by the words of the chapter: the next directory is always the first one of which that was not come to.
 func paths(t []tree.Node) []string {
-	if _, is := first(t, 1); !is {
+	if root, is := first(t, 1); !is || root.Kind != 2 {
 		return nil
 	}
 	gone, ways, all := []int{1}, []string{""}, map[string]bool{}
@@ -713,6 +713,26 @@ func TestPathsRise(t *testing.T) {
 	}
 }
 
+// Promise 25.3: of a root that is no directory, by the first node of its number, nothing is gone through.
+func TestPathsOfARoot(t *testing.T) {
+	for _, kind := range append(wild(), 2, 3) {
+		u := []tree.Node{
+			{Ino: 1, Kind: kind, Names: []api.Entry{{Name: "a", Ino: 2}}},
+			{Ino: 2, Kind: 2, Names: []api.Entry{{Name: "b", Ino: 1}}},
+			{Ino: 1, Kind: 4 - kind, Names: []api.Entry{{Name: "c", Ino: 2}}},
+			{Ino: 1, Kind: 2, Names: []api.Entry{{Name: "d", Ino: 2}}},
+		}
+		var want []string
+		if kind == 2 {
+			want = []string{"/a", "/a/b"}
+		}
+		if got := tree.Paths(u); !slices.Equal(got, want) {
+			t.Errorf("Paths of a root of the kind %d: %q, want %q", kind, got, want)
+		}
+		check(t, u, [][]string{nil, {"a"}, {"a", "b"}, {"c"}}, wild()...)
+	}
+}
+
 // Promises 25.1 to 25.3: any lists of nodes, by the words of the chapter.
 func TestAnyNodes(t *testing.T) {
 	r := rand.New(rand.NewSource(2500))
@@ -730,7 +750,7 @@ func TestAnyNodes(t *testing.T) {
 		for n := range r.Intn(9) {
 			node := tree.Node{Ino: r.Intn(9) - 2, Kind: []int{2, 2, 2, 1, 3, 0, -2}[r.Intn(7)], Links: r.Intn(2), Parent: r.Intn(2), Size: r.Intn(2)}
 			if n == 0 {
-				node.Ino = r.Intn(2)
+				node.Ino, node.Kind = min(1, r.Intn(4)), 2-r.Intn(8)/7
 			}
 			for range r.Intn(5) {
 				node.Names = append(node.Names, api.Entry{Name: pool[r.Intn(len(pool))], Ino: r.Intn(9) - 2})
